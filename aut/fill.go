@@ -1,10 +1,10 @@
 package aut
 
 import (
-	"math/bits"
 	"slices"
 
 	"lodesman/api"
+	"lodesman/letters"
 )
 
 // Fill returns a complete and deterministic automaton with the words of a.
@@ -36,7 +36,7 @@ func copied(a api.Automaton) api.Automaton {
 }
 
 // withSink returns a with one more state, to which all letters lead that are not in the sets of the states. Marks are added only to kinds that have few, so there are never too many.
-func withSink(a api.Automaton, sets []letterSet) api.Automaton {
+func withSink(a api.Automaton, sets []letters.Set) api.Automaton {
 	rule, _ := acceptanceOf(a.Kind)
 	refused := rule.refuses(a.Marks)
 	filled, sink := copied(a), a.States
@@ -48,54 +48,11 @@ func withSink(a api.Automaton, sets []letterSet) api.Automaton {
 	if len(filled.Start) == 0 {
 		filled.Start = []int{sink}
 	}
-	all := cubes(a.Props)
+	all := letters.Cubes(a.Props)
 	for s, set := range append(sets, 0) {
-		for _, c := range cover(full(a.Props)&^set, all) {
-			filled.Edges = append(filled.Edges, api.Edge{From: s, To: sink, Care: c.care, Bits: c.bits, Marks: refused.inf})
+		for _, c := range letters.Cover(letters.All(a.Props)&^set, all) {
+			filled.Edges = append(filled.Edges, api.Edge{From: s, To: sink, Care: c.Care, Bits: c.Bits, Marks: refused.inf})
 		}
 	}
 	return filled
-}
-
-// cube is a set of letters that one edge can have.
-type cube struct {
-	care, bits int
-	letters    letterSet
-}
-
-// cubes returns all cubes over props propositions, the largest ones first.
-func cubes(props int) []cube {
-	var list []cube
-	for count := range props + 1 {
-		for care := range 1 << props {
-			if bits.OnesCount(uint(care)) == count {
-				list = append(list, cubesOf(care, props)...)
-			}
-		}
-	}
-	return list
-}
-
-// cubesOf returns the cubes that care for these propositions.
-func cubesOf(care, props int) []cube {
-	var list []cube
-	for l := range 1 << props {
-		if l&^care == 0 {
-			letters := fitting(api.Edge{Care: care, Bits: l}, props)
-			list = append(list, cube{care: care, bits: l, letters: letters})
-		}
-	}
-	return list
-}
-
-// cover returns disjoint cubes that together are the set. Large ones are taken first, so that few edges are needed.
-func cover(set letterSet, all []cube) []cube {
-	var list []cube
-	for _, c := range all {
-		if c.letters&^set == 0 {
-			list = append(list, c)
-			set &^= c.letters
-		}
-	}
-	return list
 }

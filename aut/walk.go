@@ -4,6 +4,7 @@ import (
 	"iter"
 
 	"lodesman/api"
+	"lodesman/letters"
 )
 
 // walker follows the run of a deterministic automaton.
@@ -43,10 +44,10 @@ func (r *walker) walk(w api.Word) (inf int, dead bool) {
 	return 0, true
 }
 
-// read follows the letters and returns the marks that are met.
-func (r *walker) read(letters []int) int {
+// read follows the letters of a list and returns the marks that are met.
+func (r *walker) read(list []int) int {
 	marks := 0
-	for _, l := range letters {
+	for _, l := range list {
 		marks |= r.step(l)
 	}
 	return marks
@@ -58,7 +59,7 @@ func (r *walker) step(letter int) int {
 		return 0
 	}
 	for _, i := range r.out[r.state] {
-		if e := r.edges[i]; has(e, letter) {
+		if e := r.edges[i]; letters.Has(e, letter) {
 			r.state = e.To
 			return e.Marks
 		}
