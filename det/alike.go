@@ -1,6 +1,10 @@
 package det
 
-import "slices"
+import (
+	"slices"
+
+	"lodesman/graph"
+)
 
 // mostPairs is how many steps are spent on pairs of states. Without these, the automata are larger.
 const mostPairs = 1 << 25
@@ -9,7 +13,7 @@ const mostPairs = 1 << 25
 type comparison struct {
 	*diagram
 	size   int
-	splits *splitter
+	splits *graph.Splitter
 	nodes  []int
 	differ []bool // for each pair whether some word is accepted from the first state and not from the second one
 }
@@ -23,14 +27,14 @@ func (d *diagram) classes() ([]int, bool) {
 	if size*size*len(d.next[0])*(1+limit/2)*(1+limit/2) > mostPairs {
 		return nil, false
 	}
-	c := &comparison{diagram: d, size: size, splits: newSplitter(size * size), nodes: upTo(size * size), differ: make([]bool, size*size)}
+	c := &comparison{diagram: d, size: size, splits: graph.NewSplitter(size * size), nodes: graph.UpTo(size * size), differ: make([]bool, size*size)}
 	for even := 0; even < limit; even += 2 {
 		for odd := none; odd < limit; odd += 2 {
 			c.circle(even, odd)
 		}
 	}
 	c.spread()
-	class := upTo(size)
+	class := graph.UpTo(size)
 	for s := range class {
 		for t := range s {
 			if !c.differ[s*size+t] && !c.differ[t*size+s] {
@@ -52,14 +56,14 @@ func (c *comparison) degree(int) int { return len(c.next[0]) }
 
 // circle finds the pairs from which the same letters lead in circles such that the greatest marks are these.
 func (c *comparison) circle(even, odd int) {
-	parts := c.splits.split(c.nodes, c.degree, func(v, group int) int {
+	parts := c.splits.Split(c.nodes, c.degree, func(v, group int) int {
 		next, first, second := c.behind(v, group)
 		if first > even || second > odd {
 			return none
 		}
 		return next
 	})
-	number := partNumbers(len(c.nodes), parts)
+	number := graph.Numbers(len(c.nodes), parts)
 	for _, part := range parts {
 		hasEven, hasOdd := false, odd == none
 		for _, v := range part {
@@ -78,7 +82,7 @@ func (c *comparison) circle(even, odd int) {
 
 // spread finds the pairs that lead to others that differ.
 func (c *comparison) spread() {
-	parts := c.splits.split(c.nodes, c.degree, func(v, group int) int {
+	parts := c.splits.Split(c.nodes, c.degree, func(v, group int) int {
 		next, _, _ := c.behind(v, group)
 		return next
 	})
@@ -106,9 +110,7 @@ func (d *diagram) redirect() bool {
 	if !ok {
 		return false
 	}
-	degree := func(s int) int { return len(d.next[s]) }
-	parts := newSplitter(len(d.next)).split(upTo(len(d.next)), degree, func(s, g int) int { return d.next[s][g] })
-	part := partNumbers(len(d.next), parts)
+	part := graph.Parts(d.next)
 	last := slices.Clone(class) // for each class the first of its states in its last part
 	for s, c := range class {
 		if part[s] < part[last[c]] {

@@ -4,6 +4,7 @@ import (
 	"slices"
 
 	"lodesman/api"
+	"lodesman/graph"
 	"lodesman/letters"
 )
 
@@ -15,9 +16,7 @@ func partsOf(a api.Automaton, counts func(e api.Edge) bool) []int {
 			out[e.From] = append(out[e.From], e.To)
 		}
 	}
-	degree := func(s int) int { return len(out[s]) }
-	parts := newSplitter(a.States).split(upTo(a.States), degree, func(s, k int) int { return out[s][k] })
-	return partNumbers(a.States, parts)
+	return graph.Parts(out)
 }
 
 // clarified returns an automaton of Kind Buchi that has the mark on no edge between two parts, and on all edges of a part all of whose circles have it. It accepts the same runs, and its trees are smaller.

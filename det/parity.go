@@ -3,6 +3,7 @@ package det
 import (
 	"lodesman/api"
 	"lodesman/aut"
+	"lodesman/graph"
 	"lodesman/shape"
 )
 
@@ -63,7 +64,8 @@ func (g *grower) parity(most int, opposite bool) (api.Automaton, api.Errno) {
 
 // reduced returns a small automaton of Kind Parity.
 func reduced(d *diagram) (api.Automaton, api.Errno) {
-	marks := repaint(d)
+	paint, marks := graph.Paint(d.next, d.mark)
+	d.mark = paint
 	a, e := d.automaton(api.Parity, marks)
 	if e != api.OK {
 		return api.Automaton{}, e

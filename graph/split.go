@@ -1,10 +1,14 @@
-package det
+// Package graph divides graphs into strongly connected parts and finds as few marks for their arcs as possible, for the layers that handle automata and games.
+package graph
 
-// splitter divides graphs into strongly connected parts, as Tarjan does. It keeps a stack of its own: a path may be longer than calls can be nested.
-type splitter struct {
+// None stands for no node, and for the mark of an arc that has none.
+const None = -1
+
+// Splitter divides graphs into strongly connected parts, as Tarjan does. It keeps a stack of its own: a path may be longer than calls can be nested.
+type Splitter struct {
 	degree func(v int) int    // how many arcs a node has
-	next   func(v, k int) int // the node to which arc k leads, or none if that arc does not count
-	order  []int              // for each node when it was met; 0 if it has not been met yet, none if it is not in the graph
+	next   func(v, k int) int // the node to which arc k leads, or None if that arc does not count
+	order  []int              // for each node when it was met; 0 if it has not been met yet, None if it is not in the graph
 	low    []int              // for each node the earliest node of its part that is known to be reachable from it
 	met    int                // how many nodes have been met
 	path   []place            // from the first node of the search to the current one
@@ -15,17 +19,17 @@ type splitter struct {
 // place is a node, and the arc of it that is to be looked at next.
 type place struct{ node, arc int }
 
-// newSplitter returns a splitter of graphs whose nodes are less than count.
-func newSplitter(count int) *splitter {
-	s := &splitter{order: make([]int, count), low: make([]int, count)}
+// NewSplitter returns a splitter of graphs whose nodes are less than count.
+func NewSplitter(count int) *Splitter {
+	s := &Splitter{order: make([]int, count), low: make([]int, count)}
 	for v := range s.order {
-		s.order[v] = none
+		s.order[v] = None
 	}
 	return s
 }
 
-// split returns the parts of the graph with these nodes. A part comes behind those that are reachable from it.
-func (s *splitter) split(nodes []int, degree func(v int) int, next func(v, k int) int) [][]int {
+// Split returns the parts of the graph with these nodes. A part comes behind those that are reachable from it.
+func (s *Splitter) Split(nodes []int, degree func(v int) int, next func(v, k int) int) [][]int {
 	s.degree, s.next, s.met, s.parts = degree, next, 0, nil
 	for _, v := range nodes {
 		s.order[v] = 0
@@ -39,7 +43,7 @@ func (s *splitter) split(nodes []int, degree func(v int) int, next func(v, k int
 }
 
 // search meets all nodes that are reachable from one.
-func (s *splitter) search(root int) {
+func (s *Splitter) search(root int) {
 	s.enter(root)
 	for len(s.path) > 0 {
 		top := &s.path[len(s.path)-1]
@@ -50,7 +54,7 @@ func (s *splitter) search(root int) {
 		v, w := top.node, s.next(top.node, top.arc)
 		top.arc++
 		switch {
-		case w == none || s.order[w] == none:
+		case w == None || s.order[w] == None:
 		case s.order[w] == 0:
 			s.enter(w)
 		default:
@@ -59,7 +63,7 @@ func (s *splitter) search(root int) {
 	}
 }
 
-func (s *splitter) enter(v int) {
+func (s *Splitter) enter(v int) {
 	s.met++
 	s.order[v], s.low[v] = s.met, s.met
 	s.open = append(s.open, v)
@@ -67,7 +71,7 @@ func (s *splitter) enter(v int) {
 }
 
 // leave ends the search from the last node of the path. If no earlier node is reachable from it, its part is complete and leaves the graph.
-func (s *splitter) leave() {
+func (s *Splitter) leave() {
 	v := s.path[len(s.path)-1].node
 	s.path = s.path[:len(s.path)-1]
 	if len(s.path) > 0 {
@@ -84,13 +88,13 @@ func (s *splitter) leave() {
 	part := append([]int(nil), s.open[from:]...)
 	s.open = s.open[:from]
 	for _, w := range part {
-		s.order[w] = none
+		s.order[w] = None
 	}
 	s.parts = append(s.parts, part)
 }
 
-// partNumbers returns for each of count nodes the number of its part.
-func partNumbers(count int, parts [][]int) []int {
+// Numbers returns for each of count nodes the number of its part.
+func Numbers(count int, parts [][]int) []int {
 	part := make([]int, count)
 	for k, list := range parts {
 		for _, v := range list {
@@ -100,11 +104,18 @@ func partNumbers(count int, parts [][]int) []int {
 	return part
 }
 
-// upTo returns the numbers below count.
-func upTo(count int) []int {
+// UpTo returns the numbers below count.
+func UpTo(count int) []int {
 	list := make([]int, count)
 	for i := range list {
 		list[i] = i
 	}
 	return list
+}
+
+// Parts returns for each node of a graph the number of its part, given for each node those to which it has arcs (or None). No part is reachable from one with a smaller number.
+func Parts(next [][]int) []int {
+	degree := func(v int) int { return len(next[v]) }
+	parts := NewSplitter(len(next)).Split(UpTo(len(next)), degree, func(v, k int) int { return next[v][k] })
+	return Numbers(len(next), parts)
 }
