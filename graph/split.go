@@ -1,4 +1,4 @@
-// Package graph divides graphs into strongly connected parts and finds as few marks for their arcs as possible, for the layers that handle automata and games.
+// Package graph divides graphs into strongly connected parts, finds as few marks for their arcs as possible, and provides queues of their nodes, for the layers that handle automata and games.
 package graph
 
 // None stands for no node, and for the mark of an arc that has none.
